@@ -435,6 +435,6 @@ func TestBallRows(t *testing.T) {
 		t.Fatalf("only %d rows", len(rows))
 	}
 	for _, row := range rows {
-		checkRow(t, row)
+		checkRow(t, row, callBall)
 	}
 }

@@ -21,7 +21,7 @@ func words(ok bool, results ...any) string {
 	if ok {
 		return all
 	}
-	if strings.Trim(all, "i0 ") != "" {
+	if strings.Trim(strings.ReplaceAll(all, "[]", ""), "i0 ") != "" {
 		return "fails, but returns " + all
 	}
 	return "fails"
@@ -35,8 +35,22 @@ func wordsOf(x any) []string {
 		return []string{tell(v.X), tell(v.Y), tell(v.Z)}
 	case int64:
 		return []string{fmt.Sprintf("i%d", v)}
+	case impl.Map:
+		return []string{words(true, v.Kind, v.Middle, v.First)}
+	case []impl.Place:
+		return []string{"[" + words(true, anyOf(v)...) + "]"}
+	case [][]impl.Place:
+		return []string{words(true, anyOf(v)...)}
 	}
 	return []string{tell(x)}
+}
+
+func anyOf[T any](list []T) []any {
+	all := make([]any, len(list))
+	for i, x := range list {
+		all[i] = x
+	}
+	return all
 }
 
 // said is what a function with one result and its success returns.
@@ -125,11 +139,11 @@ func callBall(name string, n []float32, k []int64) string {
 	return ofNumbers[name].call(n, waysOf(n), last)
 }
 
-// checkRow checks a row with the name of a function, its arguments, "=", and what it returns.
-func checkRow(t *testing.T, row string) {
+// checkRow checks a row with the name of a function, its arguments, "=", and what it returns; call calls it.
+func checkRow(t *testing.T, row string, call func(name string, n []float32, k []int64) string) {
 	t.Helper()
-	call, want, _ := strings.Cut(row, " = ")
-	fields := strings.Fields(call)
+	args, want, _ := strings.Cut(row, " = ")
+	fields := strings.Fields(args)
 	var n []float32
 	var k []int64
 	for _, word := range fields[1:] {
@@ -141,8 +155,8 @@ func checkRow(t *testing.T, row string) {
 		bits, _ := strconv.ParseUint(word, 16, 32)
 		n = append(n, num(uint32(bits)))
 	}
-	if got := callBall(fields[0], n, k); got != want {
-		t.Errorf("%s: got %s, want %s", call, got, want)
+	if got := call(fields[0], n, k); got != want {
+		t.Errorf("%s: got %s, want %s", args, got, want)
 	}
 }
 
