@@ -61,6 +61,8 @@ func tell(x any) string {
 		return tellList(v)
 	case []int64:
 		return tellList(v)
+	case [][]complex64:
+		return tellList(v)
 	}
 	return fmt.Sprintf("%#v", x)
 }

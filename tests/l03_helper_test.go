@@ -2,6 +2,10 @@ package tests
 
 import (
 	"math"
+	"runtime"
+	"sync"
+	"testing"
+	"time"
 
 	"loop.example/g01341/impl"
 )
@@ -151,3 +155,22 @@ func spread(n int) []impl.Place {
 }
 
 func isNearly(got float32, want, by float64) bool { return math.Abs(float64(got)-want) <= by }
+
+// leavesNone makes some calls at once, and checks that none of them leaves a goroutine behind.
+func leavesNone(t *testing.T, calls int, call func(i int)) {
+	t.Helper()
+	before := runtime.NumGoroutine()
+	var group sync.WaitGroup
+	for i := range calls {
+		group.Go(func() { call(i) })
+	}
+	group.Wait()
+	// A goroutine that is joined may take a moment to end.
+	for range 500 {
+		if runtime.NumGoroutine() <= before {
+			return
+		}
+		time.Sleep(10 * time.Millisecond)
+	}
+	t.Errorf("%d goroutines became %d", before, runtime.NumGoroutine())
+}

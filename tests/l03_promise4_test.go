@@ -3,10 +3,7 @@ package tests
 import (
 	"fmt"
 	"math"
-	"runtime"
-	"sync"
 	"testing"
-	"time"
 
 	"loop.example/g01341/impl"
 )
@@ -213,28 +210,13 @@ func TestNumbersOfWorkers(t *testing.T) {
 
 // Promise 4: workers of many calls at once do not disturb each other, and none is left behind.
 func TestWorkersAreJoined(t *testing.T) {
-	before := runtime.NumGoroutine()
 	m, list := around(impl.MapEqual, 0.1, 0.3, 0), spread(64)
 	broken := append(spread(20), at(1, 1))
 	want := said(impl.PointsOf(m, list))
-	var group sync.WaitGroup
-	for i := range 200 {
-		group.Add(1)
-		go func() {
-			defer group.Done()
-			if got := said(impl.PointsShared(m, list, int64(i%8+1))); got != want {
-				t.Errorf("call %d: got %s", i, got)
-			}
-			fails[[]complex64](t, "a wrong list")(impl.PointsShared(m, broken, int64(i%8+1)))
-		}()
-	}
-	group.Wait()
-	// A goroutine that is joined may take a moment to end.
-	for range 500 {
-		if runtime.NumGoroutine() <= before {
-			return
+	leavesNone(t, 200, func(i int) {
+		if got := said(impl.PointsShared(m, list, int64(i%8+1))); got != want {
+			t.Errorf("call %d: got %s", i, got)
 		}
-		time.Sleep(10 * time.Millisecond)
-	}
-	t.Errorf("%d goroutines became %d", before, runtime.NumGoroutine())
+		fails[[]complex64](t, "a wrong list")(impl.PointsShared(m, broken, int64(i%8+1)))
+	})
 }
