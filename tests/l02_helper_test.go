@@ -42,7 +42,7 @@ func wordsOf(x any) []string {
 	case [][]impl.Place:
 		return []string{words(true, anyOf(v)...)}
 	}
-	return []string{tell(x)}
+	return surveyWordsOf(x)
 }
 
 func anyOf[T any](list []T) []any {
