@@ -128,7 +128,7 @@ func surveyWordsOf(x any) []string {
 	case []impl.Rise:
 		return []string{"[" + words(true, anyOf(v)...) + "]"}
 	}
-	return []string{tell(x)}
+	return heightWordsOf(x)
 }
 
 func leg(turn, long float32) impl.Leg { return impl.Leg{Turn: turn, Long: long} }
