@@ -21,7 +21,7 @@ func words(ok bool, results ...any) string {
 	if ok {
 		return all
 	}
-	if strings.Trim(strings.NewReplacer("[]", "", "false", "").Replace(all), "i0 ") != "" {
+	if strings.Trim(strings.NewReplacer("[]", "", "''", "", "false", "").Replace(all), "i0 ") != "" {
 		return "fails, but returns " + all
 	}
 	return "fails"

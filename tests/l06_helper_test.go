@@ -108,7 +108,7 @@ func heightWordsOf(x any) []string {
 		}
 		return []string{"[" + digits + "]"}
 	}
-	return []string{tell(x)}
+	return tileWordsOf(x)
 }
 
 // hills returns a grid whose heights, from 0 to less than 8, depend on the seed. Every other seed has whole ones, so that many of them are equal.
