@@ -148,7 +148,7 @@ func tileWordsOf(x any) []string {
 	case []impl.Track:
 		return []string{"[" + words(true, anyOf(v)...) + "]"}
 	}
-	return []string{tell(x)}
+	return deskWordsOf(x)
 }
 
 func road(a, b, long int64) impl.Road { return impl.Road{A: a, B: b, Long: long} }
